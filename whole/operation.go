@@ -1,12 +1,14 @@
 package whole
 
+import "metewand/exact"
+
 // An operation is something that is done with two numbers.
-type operation interface{ operands() (a, b number) }
+type operation interface{ operands() (a, b exact.Int) }
 
 // A pair is the two numbers of an operation.
-type pair struct{ a, b number }
+type pair struct{ a, b exact.Int }
 
-func (p pair) operands() (a, b number) { return p.a, p.b }
+func (p pair) operands() (a, b exact.Int) { return p.a, p.b }
 
 func readPair(a, b string) pair { return pair{read(a), read(b)} }
 
@@ -19,43 +21,31 @@ type (
 )
 
 // perform returns the result of an operation, and what a division leaves.
-func perform(o operation) (result, rest number) {
+func perform(o operation) (result, rest exact.Int) {
 	a, b := o.operands()
 	switch o.(type) {
 	case sum:
-		return add(a, b), number{}
+		return a.Plus(b), exact.Int{}
 	case difference:
-		return sub(a, b), number{}
+		return a.Minus(b), exact.Int{}
 	case multiple:
-		return product(a, b), number{}
+		return a.Times(b), exact.Int{}
 	case floored:
-		return floor(a, b)
+		return a.Floor(b)
 	case truncated:
-		return divide(a, b)
+		return a.Quo(b)
 	}
-	return number{}, number{}
+	return exact.Int{}, exact.Int{}
 }
 
 // single returns the text of the result.
 func single(o operation) string {
 	result, _ := perform(o)
-	return result.text()
+	return text(result)
 }
 
 // double returns the texts of the result and of what is left.
 func double(o operation) [2]string {
 	result, rest := perform(o)
-	return [2]string{result.text(), rest.text()}
+	return [2]string{text(result), text(rest)}
 }
-
-func add(a, b number) number {
-	if compareLimbs(a.limbs, b.limbs) < 0 {
-		a, b = b, a
-	}
-	if a.with(b.sign) == below {
-		return signed(a.sign, takeLimbs(a.limbs, b.limbs))
-	}
-	return signed(a.sign, addLimbs(a.limbs, b.limbs))
-}
-
-func sub(a, b number) number { return add(a, number{b.turned(), b.limbs}) }

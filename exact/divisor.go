@@ -1,20 +1,27 @@
-package whole
+package exact
 
-// divisor returns the greatest common divisor of a and b, and x and y with a x + b y = g, x the least that is not below 0 (if b is not 0).
-func divisor(a, b number) (g, x, y number) {
+// Divisor returns the greatest common divisor of a and b.
+func (a Int) Divisor(b Int) Int {
+	w := walk{rest: a.limbs, next: b.limbs}
+	w.finish()
+	return signed(above, w.rest)
+}
+
+// Combine returns the greatest common divisor g of a and b, and x and y with a x + b y = g, x the least that is not below 0 (if b is not 0).
+func (a Int) Combine(b Int) (g, x, y Int) {
 	if b.sign == none {
-		return number{a.with(a.sign), a.limbs}, signed(a.sign, []limb{1}), number{}
+		return a.Size(), signed(a.sign, []limb{1}), Int{}
 	}
 	w := walk{rest: a.limbs, next: b.limbs, times: []limb{1}}
 	w.finish()
 	g = signed(above, w.rest)
-	period, _ := divide(number{b.with(b.sign), b.limbs}, g)
-	_, x = floor(signed(a.with(w.side()), w.times), period)
-	y, _ = divide(sub(g, product(a, x)), b)
+	period, _ := b.Size().Quo(g)
+	_, x = signed(a.with(w.side()), w.times).Floor(period)
+	y, _ = g.Minus(a.Times(x)).Quo(b)
 	return g, x, y
 }
 
-// A walk is how far Euclid's algorithm has come: two neighbours of the numbers that it finds, and how many times the first number of all each of these is, up to multiples of the second. What is left of the signs is that they alternate: odd says that the neighbours have changed places an odd number of times.
+// A walk is how far Euclid's algorithm has come: two neighbours of the numbers that it finds, and how many times the first number of all each of these is, up to multiples of the second. (If times is 0 at first, it stays 0, at no cost.) What is left of the signs is that they alternate: odd says that the neighbours have changed places an odd number of times.
 type walk struct {
 	rest, next   []limb
 	times, after []limb

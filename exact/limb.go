@@ -1,4 +1,4 @@
-package whole
+package exact
 
 // A limb holds as many decimal digits as fit, so that texts are cut into limbs without arithmetic.
 const (
@@ -60,12 +60,26 @@ func copied(limbs []limb) []limb {
 	return result
 }
 
+// A block is some neighbouring limbs, which are compared at once.
+type block [8]limb
+
+// blockBefore returns the block that ends before an index.
+func blockBefore(limbs []limb, end int) block {
+	var b block
+	copy(b[:], limbs[end-len(b):end])
+	return b
+}
+
 // compareLimbs returns -1, 0 or 1 as a is less than b, equal, or greater.
 func compareLimbs(a, b []limb) int {
 	if len(a) != len(b) {
 		return direction(len(a) < len(b))
 	}
-	for i := len(a) - 1; i >= 0; i-- {
+	rest := len(a)
+	for rest >= len(block{}) && blockBefore(a, rest) == blockBefore(b, rest) {
+		rest -= len(block{})
+	}
+	for i := rest - 1; i >= 0; i-- {
 		if a[i] != b[i] {
 			return direction(a[i] < b[i])
 		}

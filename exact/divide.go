@@ -1,18 +1,21 @@
-package whole
+package exact
 
-import "metewand/api"
+import (
+	"metewand/api"
+	"metewand/stop"
+)
 
-// divide returns the quotient, rounded towards 0, and what it leaves of a.
-func divide(a, b number) (quotient, rest number) {
+// Quo returns the quotient, rounded towards 0, and what it leaves of a (ErrZero if b is 0).
+func (a Int) Quo(b Int) (quotient, rest Int) {
 	q, r := divideLimbs(a.limbs, b.limbs)
 	return signed(a.with(b.sign), q), signed(a.sign, r)
 }
 
-// floor returns the quotient, rounded down, and what it leaves of a.
-func floor(a, b number) (quotient, rest number) {
-	quotient, rest = divide(a, b)
+// Floor returns the quotient, rounded down, and what it leaves of a (ErrZero if b is 0).
+func (a Int) Floor(b Int) (quotient, rest Int) {
+	quotient, rest = a.Quo(b)
 	if rest.with(b.sign) == below {
-		quotient, rest = sub(quotient, small(1)), add(rest, b)
+		quotient, rest = quotient.Minus(small(1)), rest.Plus(b)
 	}
 	return quotient, rest
 }
@@ -21,7 +24,7 @@ func floor(a, b number) (quotient, rest number) {
 func divideLimbs(a, b []limb) (quotient, rest []limb) {
 	switch kindOf(b) {
 	case zero:
-		throw(api.ErrZero)
+		stop.Throw(api.ErrZero)
 	case short:
 		quotient = make([]limb, len(a))
 		left := divideShort(quotient, a, b[0])

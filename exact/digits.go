@@ -1,20 +1,18 @@
-package whole
+package exact
 
 import (
 	"iter"
 	"slices"
-
-	"metewand/api"
 )
 
 // The bases in which numbers can be written.
 const (
-	leastBase    = 2
+	LeastBase    = 2
 	decimal      = 10
-	greatestBase = 36
+	GreatestBase = 36
 )
 
-// digitOf returns what a character is as a digit, or greatestBase if it is none.
+// digitOf returns what a character is as a digit, or GreatestBase if it is none.
 func digitOf(r rune) int {
 	switch {
 	case r >= '0' && r <= '9':
@@ -22,7 +20,7 @@ func digitOf(r rune) int {
 	case r >= 'a' && r <= 'z':
 		return int(r-'a') + decimal
 	}
-	return greatestBase
+	return GreatestBase
 }
 
 // character returns the character of a digit.
@@ -73,29 +71,27 @@ func digits(limbs []limb, base int) iter.Seq[limb] {
 	}
 }
 
-// inBase returns the digits of a number in the base.
-func inBase(n number, base int) string {
-	if n.sign == none {
+// InBase returns the digits of the number in the base.
+func (a Int) InBase(base int) string {
+	if a.sign == none {
 		return "0"
 	}
 	var out []byte
-	for digit := range digits(n.limbs, base) {
+	for digit := range digits(a.limbs, base) {
 		out = append(out, character(digit))
 	}
-	out = append(out, n.mark()...)
+	out = append(out, a.mark()...)
 	slices.Reverse(out)
 	return string(out)
 }
 
-// ofBase returns the number whose digits in the base are a text, which has to be of that form.
-func ofBase(text string, base int) number {
+// OfBase returns the number whose digits in the base are a text, which has to be of that form (ErrForm).
+func OfBase(text string, base int) Int {
 	s, digits := split(text, base)
 	var limbs []limb
 	for count := together(base); digits != ""; {
 		count = min(count, len(digits))
 		limbs = appendDigits(limbs, digits[:count], limb(base))
-		// A long text need not be read to its end once it is too large.
-		demand(len(limbs) <= width, api.ErrLarge)
 		digits = digits[count:]
 	}
 	return signed(s, limbs)

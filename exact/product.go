@@ -1,4 +1,4 @@
-package whole
+package exact
 
 import "sync"
 
@@ -8,13 +8,12 @@ const (
 	sideBySide = 2 * partSize
 )
 
-// product multiplies numbers; of none it is 1.
-func product(factors ...number) number {
-	result := small(1)
-	for _, f := range factors {
-		result = signed(result.with(f.sign), multiply(nil, result.limbs, f.limbs))
+// Times returns a multiplied by other numbers.
+func (a Int) Times(others ...Int) Int {
+	for _, b := range others {
+		a = signed(a.with(b.sign), multiply(nil, a.limbs, b.limbs))
 	}
-	return result
+	return a
 }
 
 // multiply returns the product of a and b in the memory of room, if this is large enough. Neither of them may lie in room.
