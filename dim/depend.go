@@ -72,8 +72,9 @@ func (s *span) group(at int) (group []exact.Ratio, is bool) {
 	if !is {
 		return nil, false
 	}
+	without := zero()
 	for range s.length {
-		group = append(group, zero())
+		group = append(group, without)
 	}
 	own := r[len(r)-1].value
 	for _, e := range r[:len(r)-1] {
