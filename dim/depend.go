@@ -96,7 +96,7 @@ func negatives(numbers []exact.Ratio) []exact.Ratio {
 func results(numbers []exact.Ratio) []api.Rat {
 	var out []api.Rat
 	for _, n := range numbers {
-		out = append(out, small(n))
+		out = append(out, n.Result())
 	}
 	return out
 }

@@ -1,39 +1,10 @@
 package dim
 
 import (
-	"maps"
-	"slices"
-
 	"metewand/api"
 	"metewand/exact"
 	"metewand/stop"
 )
-
-// exponents is a dimension at work: the exponents of its bases, none of them 0, and of any length.
-type exponents map[string]exact.Ratio
-
-// raise multiplies by a power of a base.
-func (e exponents) raise(base string, n exact.Ratio) {
-	switch before, is := e[base]; {
-	case is:
-		n = before.Plus(n)
-		fallthrough
-	default:
-		e[base] = n
-	}
-	if n.Sign() == 0 {
-		delete(e, base)
-	}
-}
-
-// result returns a dimension at work as a list, unless an exponent is too large.
-func result(work exponents) []api.Power {
-	var list []api.Power
-	for _, base := range slices.Sorted(maps.Keys(work)) {
-		list = append(list, api.Power{Base: base, Exp: small(work[base])})
-	}
-	return list
-}
 
 // A factor is a dimension, and the power of it that is in a product.
 type factor struct {
@@ -42,28 +13,26 @@ type factor struct {
 }
 
 // product multiplies factors.
-func product(factors ...factor) exponents {
-	work := exponents{}
+func product(factors ...factor) exact.Exponents {
+	work := exact.Exponents{}
 	for _, f := range factors {
-		for _, p := range f.powers {
-			work.raise(p.Base, exact.Ratio{Rat: p.Exp}.Times(f.power))
-		}
+		work.Multiply(f.powers, f.power)
 	}
 	return work
 }
 
 // An operation is what is done with a second dimension, once the first one is known to be valid.
 type operation struct {
-	of func(second dimension) exponents
+	of func(second dimension) exact.Exponents
 }
 
-func (o operation) with(second []api.Power) []api.Power { return result(o.of(given(second))) }
+func (o operation) with(second []api.Power) []api.Power { return o.of(given(second)).Result() }
 
-func (d dimension) times(second dimension) exponents {
+func (d dimension) times(second dimension) exact.Exponents {
 	return product(factor{d, one()}, factor{second, one()})
 }
 
-func (d dimension) over(second dimension) exponents {
+func (d dimension) over(second dimension) exact.Exponents {
 	return product(factor{d, one()}, factor{second, one().Negative()})
 }
 

@@ -17,13 +17,13 @@ const (
 )
 
 // read returns the dimension of a text at work.
-func read(text string) exponents {
-	work := exponents{}
+func read(text string) exact.Exponents {
+	work := exact.Exponents{}
 	if text == nothing {
 		return work
 	}
 	for base, exponent := range factors(text) {
-		work.raise(base, exponent)
+		work.Raise(base, exponent)
 	}
 	return work
 }

@@ -137,11 +137,70 @@ func TestLongRatios(t *testing.T) {
 	}
 }
 
+func TestLongPowers(t *testing.T) {
+	seed := source(4)
+	for range 100 {
+		a, m, n := seed.ratio(300), seed.below(9)-4, seed.below(9)-4
+		for _, x := range []struct {
+			law  string
+			a, b exact.Ratio
+		}{
+			{"power of a sum", a.Power(m + n), a.Power(m).Times(a.Power(n))}, {"power of a power", a.Power(m * n), a.Power(m).Power(n)}, {"first power", a.Power(1), a}, {"negative power", a.Power(-n), a.Inverse().Power(n)},
+		} {
+			if x.a != x.b || !exact.Lowest(x.a.Rat) {
+				t.Errorf("%s: %v is not %v", x.law, x.a, x.b)
+			}
+		}
+	}
+	if one := exact.Whole(exact.Of(1)); exact.Whole(exact.Of(0)).Power(0) != one {
+		t.Errorf("the power 0 of 0")
+	}
+}
+
+func TestExponents(t *testing.T) {
+	whole := func(n int) exact.Ratio { return exact.Whole(exact.Of(n)) }
+	half := exact.Quotient(exact.Of(1), exact.Of(2))
+	e := exact.Exponents{}
+	e.Raise("s", whole(-2))
+	e.Raise("m", half)
+	e.Raise("kg", whole(0))
+	e.Multiply([]api.Power{{Base: "a", Exp: half.Rat}, {Base: "s", Exp: whole(1).Rat}}, whole(2))
+	if len(e) != 2 || e["m"] != half || e["a"] != whole(1) {
+		t.Errorf("exponents: %v", e)
+	}
+	e.Multiply([]api.Power{{Base: "b", Exp: whole(3).Rat}, {Base: "m", Exp: whole(1).Rat}}, whole(0))
+	if list := e.Result(); len(list) != 2 || list[0] != (api.Power{Base: "a", Exp: whole(1).Rat}) || list[1] != (api.Power{Base: "m", Exp: half.Rat}) {
+		t.Errorf("powers: %v", list)
+	}
+	e.Raise("a", exact.Whole(exact.Ten(api.Digits)))
+	if list := e.Powers(); len(list) != 2 || len(list[0].Exp.Num) != api.Digits+1 {
+		t.Errorf("powers: %v", list)
+	}
+	if _, err := stop.Attempt(e.Result); err != api.ErrLarge {
+		t.Errorf("a result that is too large: error %d", err)
+	}
+}
+
+func TestResult(t *testing.T) {
+	nines := exact.Ten(api.Digits).Minus(exact.Of(1))
+	for _, a := range []exact.Ratio{exact.Whole(nines), exact.Whole(nines.Negative()), exact.Quotient(exact.Of(-1), nines)} {
+		if n, e := stop.Attempt(a.Result); n != a.Rat || e != api.OK {
+			t.Errorf("Result of %v: %v, error %d", a, n, e)
+		}
+	}
+	for _, a := range []exact.Ratio{exact.Whole(exact.Ten(api.Digits)), exact.Quotient(exact.Of(1), exact.Ten(api.Digits).Negative())} {
+		if n, e := stop.Attempt(a.Result); n != (api.Rat{}) || e != api.ErrLarge {
+			t.Errorf("Result of %v: %v, error %d", a, n, e)
+		}
+	}
+}
+
 func TestErrors(t *testing.T) {
 	zero := exact.Of(0)
 	for k, work := range []func() string{
 		func() string { return exact.Quotient(zero, zero).Num },
 		func() string { return exact.Whole(zero).Inverse().Num },
+		func() string { return exact.Whole(zero).Power(-1).Num },
 		func() string { return exact.Whole(exact.Of(3)).Over(exact.Whole(zero)).Num },
 		func() string { q, _ := exact.Of(3).Floor(zero); return q.Text() },
 	} {

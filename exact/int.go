@@ -1,4 +1,4 @@
-// Package exact computes with whole and rational numbers of any length. The layers need it where numbers on the way to a result may be longer than the result; how long this may be, they say themselves.
+// Package exact computes with whole and rational numbers of any length, and with products of powers that have such exponents. The layers need it where numbers on the way to a result may be longer than the result.
 package exact
 
 import (

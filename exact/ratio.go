@@ -47,6 +47,12 @@ func (a Ratio) Parts() (over, under Int) { return Read(a.Num), Read(a.Den) }
 // Length is how many decimal digits the numerator has, or the denominator, if it has more.
 func (a Ratio) Length() int { return max(len(strings.TrimPrefix(a.Num, below.mark())), len(a.Den)) }
 
+// Result returns the number, unless it is too long for a result (ErrLarge).
+func (a Ratio) Result() api.Rat {
+	stop.Demand(a.Length() <= api.Digits, api.ErrLarge)
+	return a.Rat
+}
+
 // Sign is -1, 0 or 1, as the number is less than 0, 0, or greater.
 func (a Ratio) Sign() int {
 	switch {
@@ -128,6 +134,15 @@ func (a Ratio) Times(b Ratio) Ratio {
 
 // Over returns a / b (ErrZero if b is 0).
 func (a Ratio) Over(b Ratio) Ratio { return a.Times(b.Inverse()) }
+
+// Power returns a to the power n (ErrZero if a is 0 and n is below 0).
+func (a Ratio) Power(n int) Ratio {
+	if n < 0 {
+		a = a.Inverse()
+	}
+	p, q := a.Parts()
+	return ratioOf(p.Power(max(n, -n)), q.Power(max(n, -n)))
+}
 
 // Split returns the greatest whole number that is not more than a, and what it leaves of a.
 func (a Ratio) Split() (Int, Ratio) {
