@@ -163,18 +163,24 @@ func (e *equation) exponent(base string) exact.Ratio {
 	return zero()
 }
 
-// fewest returns the fewest equations that contradict each other. The numbers that are compared with 0 are quotients of determinants of the equations' numbers, which are no greater than the product of the greatest norms. (There are more equations than the rank that are not empty, as they contradict each other.) If the prime is greater, it divides none of them but 0, so that a residue is 0 just if the number is.
+// fewest returns the fewest equations that contradict each other. The numbers that are compared with 0 are quotients of determinants of the equations' numbers, which are no greater than the product of the greatest norms. (There are more equations than the rank that are not empty, as they contradict each other.) If a prime is greater, it divides none of them but 0, so that a residue is 0 just if the number is.
 func (p products) fewest(norms []exact.Int) set {
 	norms = slices.SortedFunc(slices.Values(norms), exact.Int.Compare)
 	square := exact.Of(1)
 	for _, norm := range norms[max(0, len(norms)-p.rank-1):] {
 		square = square.Times(norm)
 	}
-	if square.Compare(prime().Power(2)) < 0 {
-		return tableOf(p, residueOf, func(*word[residue]) {}).fewest()
+	switch {
+	case square.Compare(exact.Of(shortPrime).Power(2)) < 0:
+		return tableOf(p, shortOf, keep).fewest()
+	case square.Compare(prime().Power(2)) < 0:
+		return tableOf(p, residueOf, keep).fewest()
 	}
 	return tableOf(p, exact.Whole, shorten).fewest()
 }
+
+// keep leaves a word as it is: residues do not grow.
+func keep[N number[N]](*word[N]) {}
 
 // shorten makes the exponent of a word's own equation 1, so that its numbers are no longer than determinants.
 func shorten(w *word[exact.Ratio]) { w.scale(w.cells[w.own].Inverse()) }

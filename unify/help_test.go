@@ -448,3 +448,21 @@ func (s *source) dense(t *testing.T, n, many, most, wrong int) []api.UnifyEq {
 	}
 	return out
 }
+
+// stretched returns equations whose exponents of each variable are multiplied by a number of so many digits. The same ones contradict each other.
+func (s *source) stretched(t *testing.T, l []api.UnifyEq, digits int) []api.UnifyEq {
+	t.Helper()
+	var factors []api.Rat
+	for range l[0].Exps {
+		factors = append(factors, api.Rat{Num: s.long(digits).Num, Den: "1"})
+	}
+	var out []api.UnifyEq
+	for _, e := range l {
+		other := api.UnifyEq{Dim: e.Dim}
+		for at, exp := range e.Exps {
+			other.Exps = append(other.Exps, must[api.Rat](t, "Mul")(ratio.Mul(exp, factors[at])))
+		}
+		out = append(out, other)
+	}
+	return out
+}

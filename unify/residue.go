@@ -7,7 +7,45 @@ import (
 	"metewand/exact"
 )
 
-// The prime is the greatest one below 2^256.
+// A short is a whole number modulo the prime 2^61 - 1. Most systems are counted by such numbers.
+type short uint64
+
+const shortPrime = 1<<61 - 1
+
+// shortOf returns the residue of a whole number.
+func shortOf(n exact.Int) short {
+	_, rest := n.Floor(exact.Of(shortPrime))
+	return short(wordOf(rest))
+}
+
+// wordOf returns a number that fits.
+func wordOf(n exact.Int) uint64 {
+	word, _ := strconv.ParseUint(n.Text(), 10, wordLen)
+	return word
+}
+
+// lowest returns the residue of any number that fits.
+func (a short) lowest() short {
+	a = a&shortPrime + a>>61
+	if a >= shortPrime {
+		a -= shortPrime
+	}
+	return a
+}
+
+// Minus returns a - b.
+func (a short) Minus(b short) short { return (a + shortPrime - b).lowest() }
+
+// Times returns a b. The bits of the product above the highest one of the prime count as if they began at the lowest one.
+func (a short) Times(b short) short {
+	high, low := bits.Mul64(uint64(a), uint64(b))
+	return (short(high<<3|low>>61) + short(low&shortPrime)).lowest()
+}
+
+// Sign is 0 or 1, as the number is 0 or another one.
+func (a short) Sign() int { return min(int(a), 1) }
+
+// The prime of longer residues is the greatest one below 2^256.
 const (
 	size    = 4 // words of a residue
 	wordLen = 64
@@ -26,7 +64,7 @@ func residueOf(n exact.Int) residue {
 	for at := range r {
 		var word exact.Int
 		rest, word = rest.Floor(exact.Of(2).Power(wordLen))
-		r[at], _ = strconv.ParseUint(word.Text(), 10, wordLen)
+		r[at] = wordOf(word)
 	}
 	return r
 }

@@ -59,22 +59,24 @@ func (w *word[N]) look(equations int) {
 
 // exchange returns the table in which another equation of a word is its own.
 func (t table[N]) exchange(w word[N], own int) table[N] {
-	words := slices.Clone(t.words)
-	for at := range words {
-		other := &words[at]
-		switch {
-		case other.own == w.own:
-			other.own, other.cells = own, slices.Clone(other.cells)
-		case other.uses.has(own):
-			other.cells = slices.Clone(other.cells)
+	t.words = slices.Clone(t.words)
+	memory := make([]N, 0, len(t.words)*len(w.cells)) // of all words, as that is faster
+	for at := range t.words {
+		other := &t.words[at]
+		if !other.uses.has(own) {
+			continue
+		}
+		begin := len(memory)
+		memory = append(memory, other.cells...)
+		other.cells = memory[begin:len(memory):len(memory)]
+		if other.own == w.own {
+			other.own = own
+		} else {
 			other.cancel(w.row, own)
 			other.look(t.equations)
-		default:
-			continue
 		}
 		t.tidy(other)
 	}
-	t.words = words
 	return t
 }
 
@@ -90,17 +92,6 @@ func (t table[N]) place(own int) int {
 	return slices.IndexFunc(t.words, func(w word[N]) bool { return w.own == own })
 }
 
-// own returns the own equations of words.
-func (t table[N]) own(which func(word[N]) bool) set {
-	var list set
-	for _, w := range t.words {
-		if which(w) {
-			list |= just(w.own)
-		}
-	}
-	return list
-}
-
 // A search is for contradictions that are better than the best one that is known: of fewer equations, or, once there are none, of as many that come before.
 type search struct {
 	fewer bool
@@ -108,13 +99,11 @@ type search struct {
 	best  set // it is empty as long as none is known
 }
 
-// note takes note of contradictions.
-func (s *search) note(lists ...set) {
-	for _, list := range lists {
-		many := list.count()
-		if many < s.size || many == s.size && (s.best == 0 || list.before(s.best)) {
-			s.size, s.best = many, list
-		}
+// note takes note of a contradiction.
+func (s *search) note(list set) {
+	many := list.count()
+	if many < s.size || many == s.size && (s.best == 0 || list.before(s.best)) {
+		s.size, s.best = many, list
 	}
 }
 
@@ -126,15 +115,13 @@ func (s *search) room(chosen set) int {
 	return s.size - chosen.count()
 }
 
-// clashes returns the equations of each word that has a dimension.
-func (t table[N]) clashes() []set {
-	var lists []set
+// noteAll takes note of the words that have a dimension.
+func (t table[N]) noteAll(s *search) {
 	for _, w := range t.words {
 		if w.clash {
-			lists = append(lists, w.uses)
+			s.note(w.uses)
 		}
 	}
-	return lists
 }
 
 // fewest returns the least list of the fewest equations that contradict each other. There is one, so a word has a dimension.
@@ -152,12 +139,12 @@ const rounds = 5
 
 // wander sees what tables with other equations of their own have. The better the best contradiction is that is known, the sooner it is certain that there is no better one.
 func (t table[N]) wander(s *search) {
-	s.note(t.clashes()...)
+	t.noteAll(s)
 	for step := range rounds * len(t.words) {
 		w := t.words[step%len(t.words)]
 		if others := (w.uses &^ just(w.own)).numbers(); len(others) > 0 {
 			t = t.exchange(w, others[step%len(others)])
-			s.note(t.clashes()...)
+			t.noteAll(s)
 		}
 	}
 }
@@ -213,16 +200,29 @@ func (b branch[N]) next() table[N] {
 
 // rarest returns the equation of a list that the fewest words use.
 func (t table[N]) rarest(list set) int {
-	uses := func(number int) int { return t.own(func(w word[N]) bool { return w.uses.has(number) }).count() }
-	return slices.MinFunc(list.numbers(), func(a, b int) int { return uses(a) - uses(b) })
+	best, fewest := 0, len(t.words)+1
+	for number := range list.each() {
+		uses := 0
+		for _, w := range t.words {
+			if w.uses.has(number) {
+				uses++
+			}
+		}
+		if uses < fewest {
+			best, fewest = number, uses
+		}
+	}
+	return best
 }
 
 // branches takes note of what is seen in a table, and goes through its branches: what may be better has the own equation of one of its words, or not this one but that of another one, and so on. A single word is known.
 func (t table[N]) branches(s *search) iter.Seq[branch[N]] {
-	s.note(t.clashes()...)
-	part := t.joined()
+	t.noteAll(s)
 	return func(yield func(branch[N]) bool) {
-		left := part
+		if s.room(t.chosen) < 2 { // what uses one equation more is a word of the table
+			return
+		}
+		left := t.joined()
 		for own := range left.needed(s).each() {
 			if len(left.words) == 1 || !yield(branch[N]{left, left.words[left.place(own)]}) {
 				return
@@ -247,27 +247,38 @@ func (t table[N]) joined() table[N] {
 			}
 		}
 	}
-	words := t.words
-	t.words = nil
-	for _, w := range words {
-		if w.uses&part != 0 && t.chosen&^part == 0 {
-			t.words = append(t.words, w)
-		}
+	if t.chosen&^part != 0 {
+		return table[N]{}
+	}
+	apart := func(w word[N]) bool { return w.uses&part == 0 }
+	if slices.ContainsFunc(t.words, apart) {
+		t.words = slices.DeleteFunc(slices.Clone(t.words), apart)
 	}
 	return t
 }
 
-// promising returns whether there can be something better with more than one equation beside the chosen ones: those with one are words of the table.
+// promising returns whether there can be something better: once it cannot be of fewer equations, the least ones of the words have to make a list that comes before.
 func (t table[N]) promising(s *search) bool {
-	room := s.room(t.chosen)
-	if room < 2 || s.fewer {
-		return room > 1
+	if s.fewer {
+		return true
 	}
 	var others set
 	for _, w := range t.words {
 		others |= w.uses &^ t.chosen
 	}
+	room := s.room(t.chosen)
 	return others.count() >= room && (t.chosen | others.lowest(room)).before(s.best)
+}
+
+// own returns the own equations of words.
+func (t table[N]) own(which func(word[N]) bool) set {
+	var list set
+	for _, w := range t.words {
+		if which(w) {
+			list |= just(w.own)
+		}
+	}
+	return list
 }
 
 // needed returns own equations of words of which what is looked for has one: there has to be a word with each chosen equation, and one with a dimension. It returns the shortest list, but none if nothing can be better.
@@ -275,21 +286,11 @@ func (t table[N]) needed(s *search) set {
 	if !t.promising(s) {
 		return 0
 	}
-	needs := []set{t.own(func(w word[N]) bool { return w.clash })}
+	needed := t.own(func(w word[N]) bool { return w.clash })
 	for number := range t.chosen.each() {
-		needs = append(needs, t.own(func(w word[N]) bool { return w.uses.has(number) }))
-	}
-	slices.SortFunc(needs, func(a, b set) int { return a.count() - b.count() })
-	room := s.room(t.chosen)
-	var covered set
-	for _, need := range needs {
-		if need&covered == 0 {
-			covered |= need
-			room--
+		if need := t.own(func(w word[N]) bool { return w.uses.has(number) }); need.count() < needed.count() {
+			needed = need
 		}
 	}
-	if room < 0 {
-		return 0
-	}
-	return needs[0]
+	return needed
 }

@@ -196,6 +196,10 @@ func TestShortestOfMany(t *testing.T) {
 			continue
 		}
 		expect(t, "Clash("+shownEqs(l)+")", list(unify.Clash(n, l)), list(want, api.OK))
+		if round%4 > 0 {
+			l = s.stretched(t, l, []int{5, 9, 9, 30}[s.below(4)])
+			expect(t, "Clash("+shownEqs(l)+")", list(unify.Clash(n, l)), list(want, api.OK))
+		}
 	}
 	if len(lengths) < 6 {
 		t.Errorf("only %v", lengths)
